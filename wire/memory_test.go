@@ -102,12 +102,16 @@ func TestP3_11AnswersAreNewMemory(t *testing.T) {
 	for _, m := range samples(rnd, 60) {
 		m = grown(m)
 		b, again := marshal(t, m), marshal(t, m)
-		rooms := append(roomsOf(m), roomOf(b), roomOf(again))
+		// All lists are held until the last one is there: the memory of one that is let go may become another's.
+		held := []api.Message{m, {Payload: b}, {Payload: again}}
 		for range 2 {
 			parsed, _, _ := wire.Parse(b)
-			rooms = append(rooms, roomsOf(parsed)...)
 			read, _, _ := wire.Read(print(t, m))
-			rooms = append(rooms, roomsOf(read)...)
+			held = append(held, parsed, read)
+		}
+		var rooms []room
+		for _, one := range held {
+			rooms = append(rooms, roomsOf(one)...)
 		}
 		if !allApart(rooms) {
 			t.Fatalf("lists of the calls on %+v share memory", m)
